@@ -257,24 +257,59 @@ func TestRecoverFull(t *testing.T) {
 	}
 }
 
-// P3.1: what waits is read as it is; if nothing stands behind, it waits on.
+// P3.1, P3.4: what waits is read as it is, and what was recovered is sure, with
+// something behind it or not: no crash takes it any more.
 func TestRecoverWaiting(t *testing.T) {
+	for _, payloads := range [][]string{{""}, {"a"}, {"a", "", "ccc"}, {string(make([]byte, 20)), "b"}} {
+		for synced := range len(payloads) + 1 {
+			for _, tail := range [][]byte{nil, {0}, {9}, make([]byte, 30)} {
+				d := newDisk(t, 99)
+				l := recovered(t, "empty", d)
+				for k, p := range payloads {
+					appended(t, l, p, uint32(k+1))
+					if k < synced {
+						l.Sync()
+					}
+				}
+				d.Write(d.End(), tail)
+				l = recovered(t, "waiting", d, payloads...)
+				if d.Waits() != 0 {
+					t.Errorf("%q and % x, %d synced: Waits %d", payloads, tail, synced, d.Waits())
+				}
+				appended(t, l, "lost", uint32(len(payloads)+1))
+				d.Crash([]int{5})
+				recovered(t, "waiting, and crashed", d, payloads...)
+			}
+		}
+	}
+}
+
+// P3.1, P3.4: a filled disk refuses writes, no sync: what is recovered of it is sure.
+func TestRecoverWaitingFilled(t *testing.T) {
+	d := newDisk(t, 99)
+	l := recovered(t, "empty", d)
+	appended(t, l, "a", 1)
+	appended(t, l, "bb", 2)
+	d.Fill(true)
+	recovered(t, "waiting, and filled", d, "a", "bb")
+	d.Crash(nil)
+	recovered(t, "waiting, filled and crashed", d, "a", "bb")
+}
+
+// P3.1: where bytes 0 can't be written, nothing is synced: what waits may be lost.
+func TestRecoverFullWaiting(t *testing.T) {
 	d := newDisk(t, 99)
 	l := recovered(t, "empty", d)
 	appended(t, l, "a", 1)
 	l.Sync()
 	appended(t, l, "bb", 2)
-	recovered(t, "waiting", d, "a", "bb")
-	if d.Waits() != 1 {
-		t.Error("Waits:", d.Waits())
-	}
-	d.Write(d.End(), []byte{1})
-	recovered(t, "waiting, and one byte", d, "a", "bb")
-	if d.Waits() != 0 {
-		t.Error("Waits:", d.Waits())
+	d.Write(d.End(), []byte{9})
+	d.Fill(true)
+	if l, got, e := Recover(d); l != nil || len(got) != 0 || e != api.ErrFull || d.Waits() != 2 {
+		t.Errorf("a filled disk: %v, %q, %d, Waits %d", l, got, e, d.Waits())
 	}
 	d.Crash(nil)
-	recovered(t, "synced with the bytes 0", d, "a", "bb")
+	recovered(t, "crashed", d, "a")
 }
 
 // P3.2, P3.3: what an Append writes, numbers and waits.
@@ -576,9 +611,12 @@ func TestAsModel(t *testing.T) {
 		d, m := newDisk(t, capacity), &model{}
 		l := recovered(t, "empty", d)
 		for range 60 {
-			switch pick(7) {
+			switch pick(8) {
 			case 0:
 				answers(t, "Sync", l.Sync(), api.OK)
+				m.sure = len(m.all)
+			case 2:
+				l = recovered(t, "not crashed", d, m.all...)
 				m.sure = len(m.all)
 			case 1:
 				keep := make([]int, pick(5))
