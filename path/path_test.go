@@ -62,7 +62,10 @@ func same(p, q Path) bool {
 // none tells whether a path is the zero one.
 func none(p Path) bool { return same(p, Path{}) }
 
+const label = `[0-9A-Za-z](?:[0-9A-Za-z-]*[0-9A-Za-z])?`
+
 var (
+	nameForm   = regexp.MustCompile(`^` + label + `(?:\.` + label + `)*$`)
 	pathForm   = regexp.MustCompile(`(?s)^<((?:@[^,:>]*(?:,@[^,:>]*)*:)?)((?:"(?:[^"\\]|\\.)*")?[^>]*)>`)
 	paramsForm = regexp.MustCompile(`^(?: [0-9A-Za-z-]+(?:=[!-<>-~]+)?)*$`)
 	paramForm  = regexp.MustCompile(` ([^ =]+)(?:=([^ ]+))?`)
@@ -78,9 +81,13 @@ func parseTold(s string) (Path, string, api.Errno) {
 	if route := strings.TrimSuffix(found[1], ":"); route != "" {
 		p.Route = strings.Split(route[1:], ",@")
 	}
+	tooLong := len(found[0]) > 256 || len(p.Route) > 8
 	for _, domain := range p.Route {
 		if !addr.MayDomain(domain) {
-			return Path{}, "", api.ErrForm
+			if !nameForm.MatchString(domain) {
+				return Path{}, "", api.ErrForm
+			}
+			tooLong = true
 		}
 	}
 	var e api.Errno
@@ -91,7 +98,7 @@ func parseTold(s string) (Path, string, api.Errno) {
 	} else {
 		p.Addr, e = addr.Parse(found[2])
 	}
-	if e == api.OK && (len(found[0]) > 256 || len(p.Route) > 8) {
+	if e == api.OK && tooLong {
 		e = api.ErrLong
 	}
 	if e != api.OK {
@@ -147,8 +154,13 @@ func TestParseForm(t *testing.T) {
 		// A form that is wrong goes ahead of any length.
 		"<" + long(300), "<" + long(300) + ">", "<" + long(65) + "@b.>", "<" + long(65) + "@-b>", "<" + long(255) + " @b>", "<" + routeOf(9) + "a>", "<" + routeOf(9) + ">", "<" + routeOf(9) + "postmaster>", "<" + routeOf(9) + "a@b", "<" + routeOf(200) + "a@b.>",
 		"<" + routeOf(9)[:26] + ",x:a@b>", "<" + routeOf(9)[:26] + ",@x_:a@b>", "<\"" + long(300) + "@b>", "<\"" + long(300) + "\t\"@b>", "<a@" + name(256) + ".>", "<a@" + long(64) + "_>",
-		// A route's domain is one that may be (addr.MayDomain).
-		"<@" + long(64) + ":a@b>", "<@" + name(256) + ":a@b>", "<@x,@" + long(64) + ":" + long(65) + "@b>",
+		// A route's domain that is too long, and is none whatever its length.
+		"<@" + long(64) + "_:a@b>", "<@-" + long(64) + ":a@b>", "<@" + long(64) + "-:a@b>", "<@" + long(64) + ".:a@b>", "<@." + long(64) + ":a@b>", "<@x.." + long(64) + ":a@b>", "<@é" + long(64) + ":a@b>", "<@" + name(256) + ".:a@b>", "<@" + name(256) + "_:a@b>",
+		"<@[" + long(64) + "]:a@b>", "<@[1.2.3." + strings.Repeat("4", 64) + "]:a@b>", "<@[1.2.3.4]" + long(64) + ":a@b>", "<@\"" + long(64) + "\":a@b>", "<@" + long(64) + "@y:a@b>", "<@@" + long(64) + ":a@b>",
+		// A route's domain that is too long, and something else that is wrong in form, ahead of it or behind it.
+		"<@" + long(64) + ",@-:a@b>", "<@-,@" + long(64) + ":a@b>", "<@" + long(64) + ",@:a@b>", "<@" + long(64) + ",:a@b>", "<@" + long(64) + ",x:a@b>", "<@" + long(64) + ", @x:a@b>", "<x,@" + long(64) + ":a@b>", "<@x,@" + name(256) + ",@y.:a@b>", "<@[1.2.3.256],@" + name(256) + ":a@b>",
+		"<@" + long(64) + ":a@b.>", "<@" + long(64) + ":a>", "<@" + long(64) + ":@b>", "<@" + long(64) + ":.a@b>", "<@" + long(64) + ":\"\"@b>", "<@" + long(64) + ":\"a@b>", "<@" + long(64) + ":" + long(65) + "@b_>", "<@" + name(256) + ":a@" + name(256) + ".>",
+		"<@" + long(64) + ":>", "<@" + long(64) + ":postmaster>", "<@" + long(64) + ">", "<@" + long(64), "<@" + long(64) + ":a@b", "<@" + long(64) + ":", "<@" + name(256) + ",@x>", "@" + long(64) + ":a@b>", " <@" + long(64) + ":a@b>", "<" + routeOf(8)[:24] + "@" + long(64) + ":a>", "<@" + long(64) + "," + routeOf(8) + "a_@-b>",
 	} {
 		for _, behind := range []string{"", " x"} {
 			if p, rest, e := Parse(s + behind); e != api.ErrForm || !none(p) || rest != "" {
@@ -175,6 +187,10 @@ func TestParseLong(t *testing.T) {
 		"<" + routeOf(9) + "a@b>", "<" + routeOf(80) + "a@b>", "<" + routeOf(40000) + "a@b>", "<" + routeOf(9) + "\"a b\"@c>",
 		"<" + long(65) + "@b>", "<" + long(40000) + "@b>", "<\"" + long(65) + "\"@b>", "<\"" + strings.Repeat(`\"`, 65) + "\"@b>", "<a@" + long(64) + ">", "<a@b." + long(64) + ".c>", "<a@" + name(256) + ">", "<@x:" + long(65) + "@b>", "<@x:a@" + long(64) + ">",
 		"<" + routeOf(9) + long(65) + "@" + name(256) + ">",
+		// A route's domain, all but for the length of a label, or of the whole: the first, the last, or one between.
+		"<@" + long(64) + ":a@b>", "<@" + long(65) + ":a@b>", "<@x,@" + long(64) + ":a@b>", "<@" + long(64) + ",@y:a@b>", "<@x,@" + long(64) + ",@[1.2.3.4]:a@b>", "<@" + long(64) + ",@" + long(64) + ":a@b>", "<@b." + long(64) + ".c:a@b>", "<@b." + long(64) + ":a@b>", "<@" + long(64) + ".b:a@b>", "<@" + long(32) + "-" + long(31) + ":a@b>",
+		"<@" + name(256) + ":a@b>", "<@x,@" + name(256) + ":a@b>", "<@" + name(256) + ",@y:a@b>", "<@" + name(300) + ",@" + long(64) + ":a@b>", "<@" + strings.Repeat("a.", 127) + "aa:a@b>", "<@" + long(40000) + ":a@b>",
+		"<@" + long(64) + ":" + long(65) + "@b>", "<@x,@" + long(64) + ":" + long(65) + "@b>", "<@" + long(64) + ":a@" + long(64) + ">", "<@" + long(64) + ":\"a>b\"@c>", "<@" + long(64) + ":postmaster@b>", "<@" + long(64) + "," + routeOf(7) + "a@b>", "<@" + long(64) + "," + routeOf(8) + "a@b>", "<" + routeOf(8)[:23] + ",@" + name(256) + ":a@b>",
 	} {
 		for _, behind := range []string{"", " SIZE=5", "x"} {
 			if p, rest, e := Parse(s + behind); e != api.ErrLong || !none(p) || rest != "" {
@@ -184,7 +200,10 @@ func TestParseLong(t *testing.T) {
 	}
 	for many := 1; many < 300; many++ {
 		holdParse(t, "<a@"+name(many)+">")
-		holdParse(t, "<@"+name(min(many, 255))+":a@b>")
+		holdParse(t, "<@"+name(many)+":a@b>")
+		holdParse(t, "<@"+long(many)+":a@b>")
+		holdParse(t, "<@x,@b."+long(many)+".c,@y:a@b>")
+		holdParse(t, "<@"+name(many)+"_:a@b>")
 		holdParse(t, "<"+routeOf(min(many, 20))+"a@b>")
 		holdParse(t, "<"+routeOf(8)+"\""+long(many)+"\"@"+name(max(1, 229-many))+">>")
 		holdParse(t, "<"+long(many)+"@b>")
@@ -218,6 +237,7 @@ func TestParseForms(t *testing.T) {
 	}
 	for seed := range uint64(60000) {
 		hold("<" + random(seed, int(seed%10), "@x,", "@y:", "@", "a", "b", ":", ",", ".", "\"", "\\", ">", long(64), name(120), "[1.2.3.4]", "postmaster", " ", "é"))
+		hold("<" + random(seed, 1+int(seed%4), "@x,", "@"+long(64)+",", "@"+long(63)+",", "@-,", "@"+long(64)+".,", "@"+name(256)+",") + random(seed+4, 1, "@x:", "@"+long(64)+":", "@_:", "@"+long(64)+"-:", "@b."+long(64)+":") + random(seed+5, 1, "a@b", "a@b.", "a", "", long(65)+"@b", "\"a>b\"@c") + random(seed+6, 1, ">", "> SIZE=5", ""))
 		hold("<" + random(seed, int(seed%3), "@x,", "@y:", "@x,@y:", routeOf(8)) + random(seed+1, 1, "a", "\"a>b\"", "\"\"", "a.b", long(64), long(65)) + "@" + random(seed+2, 1, "b", "b.c", "[1.2.3.4]", name(150), name(255)) + random(seed+3, 2, ">", " SIZE=5", " "))
 	}
 }
@@ -360,7 +380,7 @@ func TestFrom(t *testing.T) {
 		"<a@b>x": api.ErrForm, "<a@b> ": api.ErrForm, "<a@b>SIZE=5": api.ErrForm, "<a@b>  SIZE=5": api.ErrForm, "<>>": api.ErrForm, "<a@b> SIZE=x": api.ErrForm, "<> FOO SIZE=x": api.ErrForm,
 		"<a@b> FOO": api.ErrArg, "<> FOO": api.ErrArg, "<a@b> SIZE=5 SIZE=5": api.ErrArg, "<> BODY": api.ErrArg, "<@x:a@b> BODY=x": api.ErrArg,
 		// The path's error goes ahead of what stands behind it.
-		"<bob> FOO": api.ErrForm, "<" + long(65) + "@b> FOO": api.ErrLong, "<" + long(65) + "@b> SIZE=x": api.ErrLong, "<" + routeOf(9) + "a@b>x": api.ErrLong,
+		"<bob> FOO": api.ErrForm, "<" + long(65) + "@b> FOO": api.ErrLong, "<" + long(65) + "@b> SIZE=x": api.ErrLong, "<" + routeOf(9) + "a@b>x": api.ErrLong, "<@" + long(64) + ":a@b>x": api.ErrLong, "<@" + long(64) + ":a@b> FOO": api.ErrLong, "<@" + long(64) + ":a>": api.ErrForm,
 	} {
 		if p, params, e := From(s); e != want || !none(p) || params != (Params{}) {
 			t.Errorf("From(%q): %+v, %v, %d, not %d", s, p, params, e, want)
@@ -382,7 +402,7 @@ func TestTo(t *testing.T) {
 		"<>": api.ErrForm, "<> SIZE=5": api.ErrForm, "<> FOO": api.ErrForm, "<>x": api.ErrForm,
 		"<a@b>x": api.ErrForm, "<a@b> ": api.ErrForm, "<a@b>>": api.ErrForm, "<a@b> SIZE=x": api.ErrForm, "<a@b> FOO SIZE=x": api.ErrForm, "<postmaster> =": api.ErrForm, "<a@b>\t": api.ErrForm,
 		"<a@b> SIZE=5": api.ErrArg, "<bob@far.net> SIZE=5": api.ErrArg, "<a@b> FOO": api.ErrArg, "<a@b> BODY=7BIT": api.ErrArg, "<postmaster> BODY=8BITMIME": api.ErrArg, "<a@b> SIZE=5 SIZE=5": api.ErrArg, "<@x:a@b> NOTIFY=NEVER": api.ErrArg, "<postmaster> SIZE": api.ErrArg,
-		"<bob> FOO": api.ErrForm, "<" + long(65) + "@b> FOO": api.ErrLong, "<" + long(65) + "@b>x": api.ErrLong,
+		"<bob> FOO": api.ErrForm, "<" + long(65) + "@b> FOO": api.ErrLong, "<" + long(65) + "@b>x": api.ErrLong, "<@" + long(64) + ":a@b>": api.ErrLong, "<@" + long(64) + ":a@b>x": api.ErrLong, "<@" + long(64) + ":>": api.ErrForm,
 	} {
 		if p, e := To(s); e != want || !none(p) {
 			t.Errorf("To(%q): %+v, %d, not %d", s, p, e, want)
