@@ -310,11 +310,11 @@ func TestFindNew(t *testing.T) {
 }
 
 // foldable tells all bytes of a field's line at which it may be folded: blanks
-// of the value behind a comma, ahead of which one more byte of it stands.
+// of the value behind a comma, and that is a byte of the value other than the blank.
 func foldable(ahead, value string) []int {
 	var list []int
 	for i := range len(value) {
-		if strings.HasSuffix(value[:i], ",") && len(value[:i]) > len(",") && value[i] == ' ' {
+		if strings.HasSuffix(value[:i], ",") && value[i] == ' ' {
 			list = append(list, len(ahead)+i)
 		}
 	}
@@ -408,18 +408,33 @@ func TestLayFold(t *testing.T) {
 		{"a", long(70) + ", " + long(70) + ", " + long(70), []string{"a: " + long(70) + ",", " " + long(70) + ",", " " + long(70)}},
 		{"a", long(74) + ", " + long(76) + ", " + long(77), []string{"a: " + long(74) + ",", " " + long(76) + ",", " " + long(77)}},
 		{"a", long(75) + ", , " + long(77) + ", z", []string{"a: " + long(75) + ",", " ,", " " + long(77) + ",", " z"}},
-		// A comma that no other byte of the value stands ahead of; a blank does.
-		{"a", ", " + long(80), []string{"a: , " + long(80)}},
-		{"a", ", " + long(80) + ", y", []string{"a: , " + long(80) + ",", " y"}},
+		// The value may begin with the comma; it is folded there only where it must be.
+		{"a", ", " + long(80), []string{"a: ,", " " + long(80)}},
+		{"To", ", " + long(140), []string{"To: ,", " " + long(140)}},
+		{"a", ", " + long(80) + ", y", []string{"a: ,", " " + long(80) + ",", " y"}},
+		{"a", ", " + long(20) + ", " + long(80), []string{"a: , " + long(20) + ",", " " + long(80)}},
+		{"a", ", " + long(73), []string{"a: , " + long(73)}},
+		{"a", ", " + long(74), []string{"a: ,", " " + long(74)}},
 		{"a", " , " + long(80), []string{"a:  ,", " " + long(80)}},
 		{"a", ",, " + long(80), []string{"a: ,,", " " + long(80)}},
 		{"a", ", , " + long(80), []string{"a: , ,", " " + long(80)}},
+		{"a", ",  " + long(80), []string{"a: ,", "  " + long(80)}},
+		{"a", "," + long(80), []string{"a: ," + long(80)}},
+		{"a", ",\t" + long(80), []string{"a: ,\t" + long(80)}},
+		{"elivered-To", ", aab,,,bbb a ,,,a,a,abbaa ,b aa ,u+@home.org PostMas,bbb,bab aaa ", []string{"elivered-To: ,", " aab,,,bbb a ,,,a,a,abbaa ,b aa ,u+@home.org PostMas,bbb,bab aaa "}},
+		// A blank that is the value's first byte, or begins a line, is none to fold at.
+		{"a", " " + long(80), []string{"a:  " + long(80)}},
+		{"a", "  , " + long(80), []string{"a:   ,", " " + long(80)}},
 		// The name is no part of the value, and may be as long as it will.
 		{"a,", long(80), []string{"a,: " + long(80)}},
 		{"a,", " " + long(80), []string{"a,:  " + long(80)}},
 		{long(100), "x, y", []string{long(100) + ": x,", " y"}},
-		{long(100), ", y, z", []string{long(100) + ": , y,", " z"}},
+		{long(100), ", y, z", []string{long(100) + ": ,", " y, z"}},
 		{long(75), "x, y", []string{long(75) + ": x,", " y"}},
+		{long(75), ", y", []string{long(75) + ": ,", " y"}},
+		{long(74), ", ", []string{long(74) + ": , "}},
+		{long(75), ", ", []string{long(75) + ": ,", " "}},
+		{long(76), ",", []string{long(76) + ": ,"}},
 		{long(76), "", []string{long(76) + ": "}},
 		{long(100), "", []string{long(100) + ": "}},
 		// What is folded at may be the last byte; white space at the ends stays in the raw text.
@@ -514,6 +529,11 @@ func TestAhead(t *testing.T) {
 	if e != api.OK || n.Text() != "To:  "+long(70)+",\r\n y \r\nReceived: three\r\n"+s || n.Fields[0].Value != long(70)+", y" || !n.May() {
 		t.Error(n, e)
 	}
+	// What begins with a comma and a blank is folded there as well.
+	n, e = m.Ahead("Cc", ", "+long(140)+", z")
+	if e != api.OK || n.Text() != "Cc: ,\r\n "+long(140)+",\r\n z\r\n"+s || n.Fields[0].Value != ", "+long(140)+", z" || !n.May() {
+		t.Error(n, e)
+	}
 	for _, x := range []struct{ s, want string }{{"", "a: b\r\n"}, {"\r\n", "a: b\r\n\r\n"}, {"a:b\r\n", "a: b\r\na:b\r\n"}, {"\r\nx\r\n", "a: b\r\n\r\nx\r\n"}} {
 		m := mustParse(t, x.s)
 		if n, e := m.Ahead("a", "b"); e != api.OK || n.Text() != x.want || !n.May() || n.Early != m.Early {
@@ -545,6 +565,9 @@ func TestPut(t *testing.T) {
 		}
 	}
 	if n, e := m.Put(1, " "+long(74)+", z\t"); e != api.OK || n.Fields[1] != (Field{"TO", long(74) + ", z", "TO:  " + long(74) + ",\r\n z\t\r\n"}) || !n.May() {
+		t.Error(n, e)
+	}
+	if n, e := m.Put(0, ", "+long(140)); e != api.OK || n.Fields[0] != (Field{"Received", ", " + long(140), "Received: ,\r\n " + long(140) + "\r\n"}) || !n.May() {
 		t.Error(n, e)
 	}
 	if n, e := m.Put(2, ""); e != api.OK || n.Fields[2] != (Field{"to", "", "to: \r\n"}) || !n.May() {
